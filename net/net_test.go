@@ -107,6 +107,9 @@ func TestCheckOfAllN(t *testing.T) {
 			if v < 0 || v >= n {
 				want = api.ErrArg
 			}
+			if IsPlace(netOf(n), v) != (v >= 0 && v < n) {
+				t.Error(n, v)
+			}
 			for _, d := range []api.Edge{{From: v, To: 0, Cost: 5}, {From: 0, To: v, Cost: 5}, {From: v, To: v, Cost: 5}} {
 				if e := Check(netOf(n, d)); e != want {
 					t.Error(n, d, e)
