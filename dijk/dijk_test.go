@@ -370,3 +370,12 @@ func TestWhatIsAnsweredStays(t *testing.T) {
 		t.Error("the net of now has no edge from 0", l, e)
 	}
 }
+
+func TestCostsBeyondWhatDistTakes(t *testing.T) {
+	g := netOf(4, api.Edge{From: 0, To: 1, Cost: 0}, api.Edge{From: 1, To: 0, Cost: 0}, api.Edge{From: 1, To: 2, Cost: 640000}, api.Edge{From: 0, To: 2, Cost: 640001}, api.Edge{From: 0, To: 0, Cost: 0})
+	for from, want := range [][]int{{0, 0, 640000, api.Far}, {0, 0, 640000, api.Far}, {api.Far, api.Far, 0, api.Far}, {api.Far, api.Far, api.Far, 0}} {
+		if l := Costs(g, from); !slices.Equal(l, want) {
+			t.Error(from, l)
+		}
+	}
+}
