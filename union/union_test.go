@@ -214,3 +214,39 @@ func TestWhatIsAnsweredStays(t *testing.T) {
 		t.Error(m, e)
 	}
 }
+
+// inOneGroup answers, by the leasts of two numbers, whether they are in one group.
+func inOneGroup(m []int, p api.Pair) bool { return m[p.A] == m[p.B] }
+
+func TestJoin(t *testing.T) {
+	for _, n := range []int{1, 2, 5, 20, 64} {
+		for seed := range 50 {
+			groups := Alone(n)
+			var l []api.Pair
+			for i := range 3 * n {
+				p := api.Pair{A: (i*i*7 + seed*13) % n, B: (i*11 + seed*seed) % n}
+				apart := !inOneGroup(leasts(n, l), p)
+				if new := groups.Join(p.A, p.B); new != apart {
+					t.Fatal(n, seed, l, p, new)
+				}
+				l = append(l, p)
+				x := (i*5 + seed) % n
+				if least := groups.Least(x); least != leasts(n, l)[x] {
+					t.Fatal(n, seed, l, x, least)
+				}
+			}
+		}
+	}
+}
+
+func TestAlone(t *testing.T) {
+	one, other := Alone(3), Alone(3)
+	if !one.Join(2, 0) || one.Join(0, 2) || one.Join(1, 1) {
+		t.Error("Join tells something else than whether it joined")
+	}
+	for x, want := range []int{0, 1, 0} {
+		if one.Least(x) != want || other.Least(x) != x {
+			t.Error(x, one.Least(x), other.Least(x))
+		}
+	}
+}
